@@ -39,6 +39,13 @@ func fullFiles() []impl.File {
 	}
 }
 
+// filesOfDayZero has Files of each State that were Opened on the day 0, two of them Closed on it, too.
+func filesOfDayZero() []impl.File {
+	return []impl.File{
+		lentFile(3, 4, "a", 0, 0, 6), closedFile(5, 4, "b", 0, 1, 20), openFile(6, 2, "a", 0, 9), closedFile(8, 2, "b", 0, 0, 300), lentFile(9, 4, "c", 1, 1, 0),
+	}
+}
+
 // filesInARow makes as many Files in ascending order, with each State and three Series.
 func filesInARow(count int) []impl.File {
 	var list []impl.File
@@ -71,7 +78,7 @@ func filesOfAllStates() [][]impl.File {
 }
 
 func someFiles() [][]impl.File {
-	lists := append(filesOfAllStates(), nil, []impl.File{}, sevenFiles(), fullFiles())
+	lists := append(filesOfAllStates(), nil, []impl.File{}, sevenFiles(), fullFiles(), filesOfDayZero())
 	for count := range 11 {
 		lists = append(lists, filesInARow(count))
 	}
@@ -85,7 +92,7 @@ func wrongFiles() []impl.File {
 		openFile(4, 3, "", 10, 5), openFile(4, 3, "lawlawlawla", 10, 5), openFile(4, 3, "Law", 10, 5), openFile(4, 3, "l w", 10, 5), openFile(4, 3, "laß", 10, 5),
 		openFile(4, 3, "law", impl.MaxDay+1, 5), openFile(4, 3, "law", 10, -1), openFile(4, 3, "law", 10, 5001),
 		closedFile(4, 3, "law", 10, 9, 5), lentFile(4, 3, "law", 10, 9, 5), closedFile(4, 3, "law", 10, 0, 5), lentFile(4, 3, "law", 10, 0, 5),
-		closedFile(4, 3, "law", 0, 0, 5), lentFile(4, 3, "law", 0, 0, 5), closedFile(4, 3, "law", 10, impl.MaxDay+1, 5), lentFile(4, 3, "law", 10, impl.MaxDay+1, 5),
+		closedFile(4, 3, "law", 1, 0, 5), lentFile(4, 3, "law", 1, 0, 5), closedFile(4, 3, "law", 10, impl.MaxDay+1, 5), lentFile(4, 3, "law", 10, impl.MaxDay+1, 5),
 		{Id: 4, Series: 3, Title: "law", Opened: 10, Closed: 1}, {Id: 4, Series: 3, Title: "law", Opened: 10, Closed: 10}, {Id: 4, Series: 3, Title: "law", Opened: 10, Closed: 15},
 		{Id: 4, Series: 3, Title: "law", Opened: 10, State: -1}, {Id: 4, Series: 3, Title: "law", Opened: 10, State: 3},
 		{Id: 4, Series: 3, Title: "law", Opened: 10, Closed: 15, State: -1}, {Id: 4, Series: 3, Title: "law", Opened: 10, Closed: 15, State: 3},
@@ -118,7 +125,7 @@ func wrongFileLists() [][]impl.File {
 
 func validFile(f impl.File) bool {
 	numbers := f.Id > 0 && f.Id < 1000 && f.Series > 0 && f.Series < 100 && f.Opened > -1 && f.Opened < 20001 && f.Pages > -1 && f.Pages < 5001
-	closed := f.Closed > 0 && f.Closed < 20001 && f.Opened <= f.Closed
+	closed := f.Closed > -1 && f.Closed < 20001 && f.Opened <= f.Closed
 	return numbers && wordly(f.Title) && (f.State == 0 && f.Closed == 0 || f.State == 1 && closed || f.State == 2 && closed)
 }
 
@@ -308,7 +315,7 @@ func TestPromise5Constants(t *testing.T) {
 func TestPromise5IsFile(t *testing.T) {
 	for _, f := range []impl.File{
 		openFile(1, 1, "a", 0, 0), openFile(999, 99, "zzzzzzzzzz", impl.MaxDay, 5000), openFile(4, 3, "law", 10, 5),
-		closedFile(1, 1, "a", 0, 1, 0), lentFile(1, 1, "a", 0, 1, 0), closedFile(4, 3, "law", 10, 10, 5), lentFile(4, 3, "law", 10, 10, 5),
+		closedFile(1, 1, "a", 0, 0, 0), lentFile(1, 1, "a", 0, 0, 0), closedFile(1, 1, "a", 0, 1, 0), lentFile(1, 1, "a", 0, 1, 0), closedFile(4, 3, "law", 10, 10, 5), lentFile(4, 3, "law", 10, 10, 5),
 		closedFile(4, 3, "law", 10, 11, 5), lentFile(4, 3, "law", 10, impl.MaxDay, 5), closedFile(999, 99, "z", impl.MaxDay, impl.MaxDay, 5000), closedFile(4, 3, "law", 1, 1, 5),
 	} {
 		if !impl.IsFile(f) {
@@ -447,7 +454,7 @@ func TestPromise5NoListBecomesFiles(t *testing.T) {
 	for _, closed := range []int{-1, 0, 9, impl.MaxDay + 1} {
 		checkNoFiles(t, []impl.File{closedFile(4, 3, "law", 10, closed, 5)}, reopening(4))
 	}
-	checkNoFiles(t, []impl.File{closedFile(4, 3, "law", 0, 0, 5)}, reopening(4))
+	checkNoFiles(t, []impl.File{closedFile(4, 3, "law", 1, 0, 5)}, reopening(4))
 }
 
 func TestPromise5TheEmptyList(t *testing.T) {
@@ -509,6 +516,35 @@ func TestPromise5CloseFileOnTheFirstDay(t *testing.T) {
 	checkFiles(t, day0, closing(4, 1), []impl.File{closedFile(4, 3, "law", 0, 1, 50)})
 }
 
+// TestPromise5ClosedOnDayZero has Files that were Closed on the day 0, on which CloseFile closes none.
+func TestPromise5ClosedOnDayZero(t *testing.T) {
+	list := filesOfDayZero()
+	checkFiles(t, list, reopening(8), withFile(list, 3, openFile(8, 2, "b", 0, 300)))
+	checkFiles(t, list, lending(8, false), withFile(list, 3, lentFile(8, 2, "b", 0, 0, 300)))
+	checkFiles(t, list, lending(3, true), withFile(list, 0, closedFile(3, 4, "a", 0, 0, 6)))
+	checkNoFiles(t, list, reopening(3))
+	checkNoFiles(t, list, lending(3, false))
+	checkNoFiles(t, list, lending(8, true))
+	for _, id := range []int{3, 5, 6, 8} {
+		checkNoFiles(t, list, closing(id, 0))
+	}
+	for _, id := range []int{3, 8} {
+		checkNoFiles(t, list, closing(id, 1))
+		checkNoFiles(t, list, adding(id, 1))
+		checkNoSplitFile(t, list, id, 1, "rest")
+		checkDaysOpen(t, list, id, 0, 1)
+		checkDaysOpen(t, list, id, 14, 1)
+		checkNoDaysOpen(t, list, id, -1)
+	}
+	checkFiles(t, list, closing(6, 1), withFile(list, 2, closedFile(6, 2, "a", 0, 1, 9)))
+	checkFiles(t, list, adding(6, 1), withFile(list, 2, openFile(6, 2, "a", 0, 10)))
+	checkSplitFile(t, list, 6, 1, "rest", 10)
+	checkClosedSince(t, list, 0, 0, 3, 8)
+	checkClosedSince(t, list, 0, 1, 3, 8, 5, 9)
+	checkClosedSince(t, list, 1, impl.MaxDay, 5, 9)
+	checkSeriesPages(t, list, []int{2, 2, 309}, []int{4, 3, 26})
+}
+
 func TestPromise5CloseFileOfEachState(t *testing.T) {
 	list := sevenFiles()
 	checkFiles(t, list, closing(2, 11), withFile(list, 0, closedFile(2, 7, "appeals", 10, 11, 300)))
@@ -562,7 +598,7 @@ func TestPromise5AsBefore(t *testing.T) {
 					checkFiles(t, closed, reopening(f.Id), list)
 				}
 			}
-			if reopened, ok := impl.ReopenFile(list, f.Id); ok {
+			if reopened, ok := impl.ReopenFile(list, f.Id); ok && f.Closed > 0 {
 				checkFiles(t, reopened, closing(f.Id, f.Closed), list)
 			}
 			if lent, ok := impl.LendFile(list, f.Id, false); ok {
