@@ -18,6 +18,11 @@ var recordShape = regexp.MustCompile(`^([1-9][0-9]*)s([1-9][0-9]*)@(0|[1-9][0-9]
 // extremes are numbers that are valid nowhere.
 var extremes = []int{math.MinInt, math.MinInt32, -20000, -1, 20001, math.MaxInt32, math.MaxInt}
 
+// brief shows the beginning of what may be very long, as a precision would not cut a list off.
+func brief(x any) string {
+	return fmt.Sprintf("%.300s", fmt.Sprint(x))
+}
+
 func record(id, series, made int, events ...impl.Event) impl.Record {
 	return impl.Record{Id: id, Series: series, Made: made, Events: events}
 }
@@ -148,7 +153,7 @@ func checkAdd(t *testing.T, r impl.Record, e impl.Event, want impl.Record) {
 func checkNoAdd(t *testing.T, r impl.Record, e impl.Event) {
 	t.Helper()
 	if got, ok := impl.AddEvent(r, e); ok || !sameRecord(got, impl.Record{}) {
-		t.Errorf("AddEvent(%.200v, %v) = %.200v, %v", r, e, got, ok)
+		t.Errorf("AddEvent(%s, %v) = %s, %v", brief(r), e, brief(got), ok)
 	}
 }
 
@@ -162,7 +167,7 @@ func checkDrop(t *testing.T, r impl.Record, kind int, want impl.Record) {
 func checkNoDrop(t *testing.T, r impl.Record, kind int) {
 	t.Helper()
 	if got, ok := impl.DropEvent(r, kind); ok || !sameRecord(got, impl.Record{}) {
-		t.Errorf("DropEvent(%.200v, %d) = %.200v, %v", r, kind, got, ok)
+		t.Errorf("DropEvent(%s, %d) = %s, %v", brief(r), kind, brief(got), ok)
 	}
 }
 
@@ -176,7 +181,7 @@ func checkDay(t *testing.T, r impl.Record, kind, want int) {
 func checkNoDay(t *testing.T, r impl.Record, kind int) {
 	t.Helper()
 	if day, ok := impl.DayOf(r, kind); ok || day != 0 {
-		t.Errorf("DayOf(%.200v, %d) = %d, %v", r, kind, day, ok)
+		t.Errorf("DayOf(%s, %d) = %d, %v", brief(r), kind, day, ok)
 	}
 }
 
@@ -197,7 +202,7 @@ func checkInSeries(t *testing.T, list []impl.Record, series int, want ...int) {
 func checkNotInSeries(t *testing.T, list []impl.Record, series int) {
 	t.Helper()
 	if ids, ok := impl.InSeries(list, series); ok || len(ids) != 0 {
-		t.Errorf("InSeries(%.200v, %d) = %v, %v", list, series, ids, ok)
+		t.Errorf("InSeries(%s, %d) = %v, %v", brief(list), series, ids, ok)
 	}
 }
 
@@ -221,7 +226,7 @@ func checkParse(t *testing.T, s string) {
 func checkNothingOf(t *testing.T, r impl.Record) {
 	t.Helper()
 	if impl.IsRecord(r) || impl.AreRecords([]impl.Record{r}) {
-		t.Errorf("%.200v is a Record", r)
+		t.Errorf("%s is a Record", brief(r))
 	}
 	for kind := -1; kind <= 10; kind++ {
 		checkNoDay(t, r, kind)
@@ -229,10 +234,10 @@ func checkNothingOf(t *testing.T, r impl.Record) {
 		checkNoAdd(t, r, impl.Event{Kind: kind, Day: 150})
 	}
 	if day, ok := impl.LastDay(r); ok || day != 0 {
-		t.Errorf("LastDay(%.200v) = %d, %v", r, day, ok)
+		t.Errorf("LastDay(%s) = %d, %v", brief(r), day, ok)
 	}
 	if text, ok := impl.RecordText(r); ok || text != "" {
-		t.Errorf("RecordText(%.200v) = %.80q, %v", r, text, ok)
+		t.Errorf("RecordText(%s) = %.80q, %v", brief(r), text, ok)
 	}
 	if len(r.Events) < 10 {
 		checkNotParsed(t, textOfRecord(r))
@@ -292,7 +297,7 @@ func TestPromise2AreRecords(t *testing.T) {
 		lists := [][]impl.Record{{wrong, c}, {a, wrong}, {a, wrong, c}, {a, b, wrong}}
 		for _, list := range lists {
 			if impl.AreRecords(list) {
-				t.Errorf("%.200v are Records", list)
+				t.Errorf("%s are Records", brief(list))
 			}
 			checkNotInSeries(t, list, 5)
 		}
@@ -610,7 +615,7 @@ func TestPromise29RecordsAreNotModified(t *testing.T) {
 		kept := record(r.Id, r.Series, r.Made, slices.Clone(r.Events)...)
 		useRecord(r)
 		if !sameRecord(r, kept) {
-			t.Errorf("changed to %.200v", r)
+			t.Errorf("changed to %s", brief(r))
 		}
 	}
 }

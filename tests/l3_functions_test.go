@@ -182,7 +182,7 @@ func checkNotShared(t *testing.T, tree []impl.Function, a, b int) {
 	t.Helper()
 	for _, pair := range [][2]int{{a, b}, {b, a}} {
 		if path, ok := impl.SharedPath(tree, pair[0], pair[1]); ok || len(path) != 0 {
-			t.Errorf("SharedPath(%.300v, %d, %d) = %v, %v", tree, pair[0], pair[1], path, ok)
+			t.Errorf("SharedPath(%s, %d, %d) = %v, %v", brief(tree), pair[0], pair[1], path, ok)
 		}
 	}
 }
@@ -201,7 +201,7 @@ func checkNamed(t *testing.T, tree []impl.Function, id int, want string) {
 func checkNotFound(t *testing.T, tree []impl.Function, path string) {
 	t.Helper()
 	if id, ok := impl.FindPath(tree, path); ok || id != 0 {
-		t.Errorf("FindPath(%.300v, %.80q) = %d, %v", tree, path, id, ok)
+		t.Errorf("FindPath(%s, %.80q) = %d, %v", brief(tree), path, id, ok)
 	}
 }
 
@@ -216,7 +216,7 @@ func checkAdded(t *testing.T, tree []impl.Function, parent int, name string, wan
 func checkNotAdded(t *testing.T, tree []impl.Function, parent int, name string) {
 	t.Helper()
 	if longer, id, ok := impl.AddFunction(tree, parent, name); ok || id != 0 || len(longer) != 0 {
-		t.Errorf("AddFunction(%.300v, %d, %.20q) = %v, %d, %v", tree, parent, name, longer, id, ok)
+		t.Errorf("AddFunction(%s, %d, %.20q) = %v, %d, %v", brief(tree), parent, name, longer, id, ok)
 	}
 }
 
@@ -236,7 +236,7 @@ func checkMoved(t *testing.T, tree []impl.Function, id, parent int) {
 func checkNotMoved(t *testing.T, tree []impl.Function, id, parent int) {
 	t.Helper()
 	if moved, ok := impl.MoveUnder(tree, id, parent); ok || len(moved) != 0 {
-		t.Errorf("MoveUnder(%.300v, %d, %d) = %v, %v", tree, id, parent, moved, ok)
+		t.Errorf("MoveUnder(%s, %d, %d) = %v, %v", brief(tree), id, parent, moved, ok)
 	}
 }
 
@@ -256,7 +256,7 @@ func checkWithout(t *testing.T, tree []impl.Function, id int) {
 func checkNotWithout(t *testing.T, tree []impl.Function, id int) {
 	t.Helper()
 	if shorter, ok := impl.WithoutLeaf(tree, id); ok || len(shorter) != 0 {
-		t.Errorf("WithoutLeaf(%.300v, %d) = %v, %v", tree, id, shorter, ok)
+		t.Errorf("WithoutLeaf(%s, %d) = %v, %v", brief(tree), id, shorter, ok)
 	}
 }
 
@@ -271,13 +271,13 @@ func checkDeepest(t *testing.T, tree []impl.Function, depth int, want ...int) {
 func checkNoFunction(t *testing.T, tree []impl.Function, id int) {
 	t.Helper()
 	if path, ok := impl.PathTo(tree, id); ok || len(path) != 0 {
-		t.Errorf("PathTo(%.300v, %d) = %v, %v", tree, id, path, ok)
+		t.Errorf("PathTo(%s, %d) = %v, %v", brief(tree), id, path, ok)
 	}
 	if under, ok := impl.UnderOf(tree, id); ok || len(under) != 0 {
-		t.Errorf("UnderOf(%.300v, %d) = %v, %v", tree, id, under, ok)
+		t.Errorf("UnderOf(%s, %d) = %v, %v", brief(tree), id, under, ok)
 	}
 	if path, ok := impl.NamedPath(tree, id); ok || path != "" {
-		t.Errorf("NamedPath(%.300v, %d) = %q, %v", tree, id, path, ok)
+		t.Errorf("NamedPath(%s, %d) = %q, %v", brief(tree), id, path, ok)
 	}
 	checkNotShared(t, tree, id, id)
 	for _, f := range tree {
@@ -298,7 +298,7 @@ func checkNoFunction(t *testing.T, tree []impl.Function, id int) {
 func checkNoTree(t *testing.T, list []impl.Function) {
 	t.Helper()
 	if impl.IsTree(list) {
-		t.Errorf("%.300v is a tree", list)
+		t.Errorf("%s is a tree", brief(list))
 	}
 	for _, id := range []int{0, 1, 2, 3, 5, 9, 16, 50, 98, 99} {
 		checkNoFunction(t, list, id)
@@ -312,7 +312,7 @@ func checkNoTree(t *testing.T, list []impl.Function) {
 	checkNotFound(t, list, "a/b")
 	checkNotFound(t, list, "down/down")
 	if ids, depth, ok := impl.DeepestFunctions(list); ok || depth != 0 || len(ids) != 0 {
-		t.Errorf("DeepestFunctions(%.300v) = %v, %d, %v", list, ids, depth, ok)
+		t.Errorf("DeepestFunctions(%s) = %v, %d, %v", brief(list), ids, depth, ok)
 	}
 }
 
@@ -329,7 +329,7 @@ func TestPromise3IsFunction(t *testing.T) {
 	}
 	for _, f := range wrongFunctions() {
 		if impl.IsFunction(f) {
-			t.Errorf("IsFunction(%.100v)", f)
+			t.Errorf("IsFunction(%s)", brief(f))
 		}
 	}
 }

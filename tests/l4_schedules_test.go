@@ -182,7 +182,7 @@ func checkPut(t *testing.T, list []impl.Rule, r impl.Rule, want []impl.Rule) {
 func checkNotPut(t *testing.T, list []impl.Rule, r impl.Rule) {
 	t.Helper()
 	if changed, ok := impl.PutRule(list, r); ok || len(changed) != 0 {
-		t.Errorf("PutRule(%.300v, %v) = %v, %v", list, r, changed, ok)
+		t.Errorf("PutRule(%s, %v) = %v, %v", brief(list), r, changed, ok)
 	}
 }
 
@@ -196,7 +196,7 @@ func checkRuleDropped(t *testing.T, list []impl.Rule, series, event int, want []
 func checkRuleNotDropped(t *testing.T, list []impl.Rule, series, event int) {
 	t.Helper()
 	if shorter, ok := impl.DropRule(list, series, event); ok || len(shorter) != 0 {
-		t.Errorf("DropRule(%.300v, %d, %d) = %v, %v", list, series, event, shorter, ok)
+		t.Errorf("DropRule(%s, %d, %d) = %v, %v", brief(list), series, event, shorter, ok)
 	}
 }
 
@@ -214,10 +214,10 @@ func checkStrength(t *testing.T, list []impl.Rule, series, act, days int) {
 func checkNoStrength(t *testing.T, list []impl.Rule, series int) {
 	t.Helper()
 	if act, ok := impl.StrongestAct(list, series); ok || act != 0 {
-		t.Errorf("StrongestAct(%.300v, %d) = %d, %v", list, series, act, ok)
+		t.Errorf("StrongestAct(%s, %d) = %d, %v", brief(list), series, act, ok)
 	}
 	if days, ok := impl.LongestPeriod(list, series); ok || days != 0 {
-		t.Errorf("LongestPeriod(%.300v, %d) = %d, %v", list, series, days, ok)
+		t.Errorf("LongestPeriod(%s, %d) = %d, %v", brief(list), series, days, ok)
 	}
 }
 
@@ -225,7 +225,7 @@ func checkNoStrength(t *testing.T, list []impl.Rule, series int) {
 func checkNoSeries(t *testing.T, list []impl.Rule, series int) {
 	t.Helper()
 	if rules, ok := impl.RulesFor(list, series); ok || len(rules) != 0 {
-		t.Errorf("RulesFor(%.300v, %d) = %v, %v", list, series, rules, ok)
+		t.Errorf("RulesFor(%s, %d) = %v, %v", brief(list), series, rules, ok)
 	}
 	checkNoStrength(t, list, series)
 	for event := -1; event <= 10; event++ {
@@ -272,7 +272,7 @@ func checkScheduleNotParsed(t *testing.T, s string) {
 func checkNoScheduleOf(t *testing.T, list []impl.Rule) {
 	t.Helper()
 	if impl.IsSchedule(list) {
-		t.Errorf("%.300v is a schedule", list)
+		t.Errorf("%s is a schedule", brief(list))
 	}
 	for _, series := range []int{-1, 0, 1, 2, 3, 4, 50, 99, 100} {
 		checkNoSeries(t, list, series)
@@ -283,10 +283,10 @@ func checkNoScheduleOf(t *testing.T, list []impl.Rule) {
 		checkRuleNotDropped(t, list, r.Series, r.Event)
 	}
 	if series, ok := impl.SeriesIn(list); ok || len(series) != 0 {
-		t.Errorf("SeriesIn(%.300v) = %v, %v", list, series, ok)
+		t.Errorf("SeriesIn(%s) = %v, %v", brief(list), series, ok)
 	}
 	if text, ok := impl.ScheduleText(list); ok || text != "" {
-		t.Errorf("ScheduleText(%.300v) = %q, %v", list, text, ok)
+		t.Errorf("ScheduleText(%s) = %q, %v", brief(list), text, ok)
 	}
 	checkScheduleNotParsed(t, textOfRules(list))
 }

@@ -201,7 +201,7 @@ func checkFiles(t *testing.T, list []impl.File, a fileAct, want []impl.File) {
 func checkNoFiles(t *testing.T, list []impl.File, a fileAct) {
 	t.Helper()
 	if changed, ok := a.act(list); ok || len(changed) != 0 {
-		t.Errorf("%s of %.300v = %v, %v", a.name, list, changed, ok)
+		t.Errorf("%s of %s = %v, %v", a.name, brief(list), changed, ok)
 	}
 }
 
@@ -230,7 +230,7 @@ func checkSplitFile(t *testing.T, list []impl.File, id, pages int, title string,
 func checkNoSplitFile(t *testing.T, list []impl.File, id, pages int, title string) {
 	t.Helper()
 	if changed, newId, ok := impl.SplitFile(list, id, pages, title); ok || newId != 0 || len(changed) != 0 {
-		t.Errorf("SplitFile(%.300v, %d, %d, %.30q) = %v, %d, %v", list, id, pages, title, changed, newId, ok)
+		t.Errorf("SplitFile(%s, %d, %d, %.30q) = %v, %d, %v", brief(list), id, pages, title, changed, newId, ok)
 	}
 }
 
@@ -244,7 +244,7 @@ func checkClosedSince(t *testing.T, list []impl.File, from, to int, want ...int)
 func checkNotClosedSince(t *testing.T, list []impl.File, from, to int) {
 	t.Helper()
 	if ids, ok := impl.ClosedSince(list, from, to); ok || len(ids) != 0 {
-		t.Errorf("ClosedSince(%.300v, %d, %d) = %v, %v", list, from, to, ids, ok)
+		t.Errorf("ClosedSince(%s, %d, %d) = %v, %v", brief(list), from, to, ids, ok)
 	}
 }
 
@@ -265,7 +265,7 @@ func checkDaysOpen(t *testing.T, list []impl.File, id, day, want int) {
 func checkNoDaysOpen(t *testing.T, list []impl.File, id, day int) {
 	t.Helper()
 	if days, ok := impl.DaysOpen(list, id, day); ok || days != 0 {
-		t.Errorf("DaysOpen(%.300v, %d, %d) = %d, %v", list, id, day, days, ok)
+		t.Errorf("DaysOpen(%s, %d, %d) = %d, %v", brief(list), id, day, days, ok)
 	}
 }
 
@@ -289,7 +289,7 @@ func checkNoFileId(t *testing.T, list []impl.File, id int) {
 func checkNoneOfFiles(t *testing.T, list []impl.File) {
 	t.Helper()
 	if impl.AreFiles(list) {
-		t.Errorf("%.300v are Files", list)
+		t.Errorf("%s are Files", brief(list))
 	}
 	for _, id := range []int{-1, 0, 1, 2, 3, 4, 999, 1000} {
 		checkNoFileId(t, list, id)
@@ -302,7 +302,7 @@ func checkNoneOfFiles(t *testing.T, list []impl.File) {
 		checkNotClosedSince(t, list, from, impl.MaxDay)
 	}
 	if rows, ok := impl.SeriesPages(list); ok || len(rows) != 0 {
-		t.Errorf("SeriesPages(%.300v) = %v, %v", list, rows, ok)
+		t.Errorf("SeriesPages(%s) = %v, %v", brief(list), rows, ok)
 	}
 }
 

@@ -110,10 +110,10 @@ func checkDecides(t *testing.T, r impl.Record, schedule []impl.Rule, due int, wa
 func checkNotSettled(t *testing.T, r impl.Record, schedule []impl.Rule) {
 	t.Helper()
 	if day, ok := impl.DueDay(r, schedule); ok || day != 0 {
-		t.Errorf("DueDay(%.300v, %.300v) = %d, %v", r, schedule, day, ok)
+		t.Errorf("DueDay(%s, %s) = %d, %v", brief(r), brief(schedule), day, ok)
 	}
 	if deciding, ok := impl.DecidingRule(r, schedule); ok || deciding != (impl.Rule{}) {
-		t.Errorf("DecidingRule(%.300v, %.300v) = %v, %v", r, schedule, deciding, ok)
+		t.Errorf("DecidingRule(%s, %s) = %v, %v", brief(r), brief(schedule), deciding, ok)
 	}
 }
 
@@ -127,7 +127,7 @@ func checkIsDue(t *testing.T, r impl.Record, schedule []impl.Rule, day int, want
 func checkNotIsDue(t *testing.T, r impl.Record, schedule []impl.Rule, day int) {
 	t.Helper()
 	if due, ok := impl.IsDue(r, schedule, day); ok || due {
-		t.Errorf("IsDue(%.300v, %.300v, %d) = %v, %v", r, schedule, day, due, ok)
+		t.Errorf("IsDue(%s, %s, %d) = %v, %v", brief(r), brief(schedule), day, due, ok)
 	}
 }
 
@@ -141,7 +141,7 @@ func checkDueRecords(t *testing.T, list []impl.Record, schedule []impl.Rule, day
 func checkNoDueRecords(t *testing.T, list []impl.Record, schedule []impl.Rule, day, act int) {
 	t.Helper()
 	if ids, ok := impl.DueRecords(list, schedule, day, act); ok || len(ids) != 0 {
-		t.Errorf("DueRecords(%.300v, %.300v, %d, %d) = %v, %v", list, schedule, day, act, ids, ok)
+		t.Errorf("DueRecords(%s, %s, %d, %d) = %v, %v", brief(list), brief(schedule), day, act, ids, ok)
 	}
 }
 
@@ -155,7 +155,7 @@ func checkNextDue(t *testing.T, list []impl.Record, schedule []impl.Rule, day, w
 func checkNoNextDue(t *testing.T, list []impl.Record, schedule []impl.Rule, day int) {
 	t.Helper()
 	if id, due, ok := impl.NextDue(list, schedule, day); ok || id != 0 || due != 0 {
-		t.Errorf("NextDue(%.300v, %.300v, %d) = %d, %d, %v", list, schedule, day, id, due, ok)
+		t.Errorf("NextDue(%s, %s, %d) = %d, %d, %v", brief(list), brief(schedule), day, id, due, ok)
 	}
 }
 
@@ -176,7 +176,7 @@ func checkDueAfter(t *testing.T, r impl.Record, schedule []impl.Rule, kind, day,
 func checkNoDueAfter(t *testing.T, r impl.Record, schedule []impl.Rule, kind, day int) {
 	t.Helper()
 	if due, ok := impl.DueAfter(r, schedule, impl.Event{Kind: kind, Day: day}); ok || due != 0 {
-		t.Errorf("DueAfter(%.300v, %.300v, %d@%d) = %d, %v", r, schedule, kind, day, due, ok)
+		t.Errorf("DueAfter(%s, %s, %d@%d) = %d, %v", brief(r), brief(schedule), kind, day, due, ok)
 	}
 }
 
@@ -249,10 +249,10 @@ func checkNoListOn(t *testing.T, list []impl.Record, schedule []impl.Rule, day i
 func checkNoPeriods(t *testing.T, r impl.Record, schedule []impl.Rule) {
 	t.Helper()
 	if ends, ok := impl.EndsOf(r, schedule); ok || len(ends) != 0 {
-		t.Errorf("EndsOf(%.300v, %.300v) = %v, %v", r, schedule, ends, ok)
+		t.Errorf("EndsOf(%s, %s) = %v, %v", brief(r), brief(schedule), ends, ok)
 	}
 	if events, ok := impl.WaitsFor(r, schedule); ok || len(events) != 0 {
-		t.Errorf("WaitsFor(%.300v, %.300v) = %v, %v", r, schedule, events, ok)
+		t.Errorf("WaitsFor(%s, %s) = %v, %v", brief(r), brief(schedule), events, ok)
 	}
 	checkNotSettled(t, r, schedule)
 	for _, day := range []int{-1, 0, 100, 3750, impl.MaxDay, impl.MaxDay + 1} {
@@ -271,7 +271,7 @@ func checkNoLists(t *testing.T, list []impl.Record, schedule []impl.Rule) {
 		checkNoListOn(t, list, schedule, day)
 	}
 	if ids, ok := impl.NotScheduled(list, schedule); ok || len(ids) != 0 {
-		t.Errorf("NotScheduled(%.300v, %.300v) = %v, %v", list, schedule, ids, ok)
+		t.Errorf("NotScheduled(%s, %s) = %v, %v", brief(list), brief(schedule), ids, ok)
 	}
 }
 

@@ -319,7 +319,7 @@ func checkShortest(t *testing.T, list []impl.Format, day int, want ...int) {
 func checkNoPath(t *testing.T, list []impl.Format, from, to, day int) {
 	t.Helper()
 	if path, ok := impl.ShortestPath(list, from, to, day); ok || len(path) != 0 {
-		t.Errorf("ShortestPath(%.300v, %d, %d, %d) = %v, %v", list, from, to, day, path, ok)
+		t.Errorf("ShortestPath(%s, %d, %d, %d) = %v, %v", brief(list), from, to, day, path, ok)
 	}
 }
 
@@ -340,7 +340,7 @@ func checkUnseen(t *testing.T, list []impl.Format, copies []impl.Copy, day, days
 func checkNoUnseen(t *testing.T, list []impl.Format, copies []impl.Copy, day, days int) {
 	t.Helper()
 	if unseen, ok := impl.Unseen(list, copies, day, days); ok || len(unseen) != 0 {
-		t.Errorf("Unseen(%.300v, %.300v, %d, %d) = %v, %v", list, copies, day, days, unseen, ok)
+		t.Errorf("Unseen(%s, %s, %d, %d) = %v, %v", brief(list), brief(copies), day, days, unseen, ok)
 	}
 }
 
@@ -362,13 +362,13 @@ func checkLast(t *testing.T, list []impl.Format, id, want int) {
 func checkNotOn(t *testing.T, list []impl.Format, id, day int) {
 	t.Helper()
 	if readable, ok := impl.IsReadable(list, id, day); ok || readable {
-		t.Errorf("IsReadable(%.300v, %d, %d) = %v, %v", list, id, day, readable, ok)
+		t.Errorf("IsReadable(%s, %d, %d) = %v, %v", brief(list), id, day, readable, ok)
 	}
 	if ways, ok := impl.WaysTo(list, id, day); ok || len(ways) != 0 {
-		t.Errorf("WaysTo(%.300v, %d, %d) = %v, %v", list, id, day, ways, ok)
+		t.Errorf("WaysTo(%s, %d, %d) = %v, %v", brief(list), id, day, ways, ok)
 	}
 	if longest, ok := impl.LongestLived(list, id, day); ok || longest != 0 {
-		t.Errorf("LongestLived(%.300v, %d, %d) = %d, %v", list, id, day, longest, ok)
+		t.Errorf("LongestLived(%s, %d, %d) = %d, %v", brief(list), id, day, longest, ok)
 	}
 	checkNoPath(t, list, id, id, day)
 	for _, f := range list[:min(len(list), 20)] {
@@ -384,7 +384,7 @@ func checkNoFormatId(t *testing.T, list []impl.Format, id int) {
 		checkNotOn(t, list, id, day)
 	}
 	if last, ok := impl.LastReadable(list, id); ok || last != 0 {
-		t.Errorf("LastReadable(%.300v, %d) = %d, %v", list, id, last, ok)
+		t.Errorf("LastReadable(%s, %d) = %d, %v", brief(list), id, last, ok)
 	}
 }
 
@@ -392,7 +392,7 @@ func checkNoFormatId(t *testing.T, list []impl.Format, id int) {
 func checkNoLostOn(t *testing.T, list []impl.Format, copies []impl.Copy, day int) {
 	t.Helper()
 	if lost, ok := impl.LostRecords(list, copies, day); ok || len(lost) != 0 {
-		t.Errorf("LostRecords(%.300v, %.300v, %d) = %v, %v", list, copies, day, lost, ok)
+		t.Errorf("LostRecords(%s, %s, %d) = %v, %v", brief(list), brief(copies), day, lost, ok)
 	}
 }
 
@@ -400,7 +400,7 @@ func checkNoLostOn(t *testing.T, list []impl.Format, copies []impl.Copy, day int
 func checkNoCopies(t *testing.T, list []impl.Format, copies []impl.Copy) {
 	t.Helper()
 	if impl.AreCopies(list, copies) {
-		t.Errorf("%.300v are Copies in %.300v", copies, list)
+		t.Errorf("%s are Copies in %s", brief(copies), brief(list))
 	}
 	for _, day := range []int{-1, 0, 10, 100, impl.MaxDay, impl.MaxDay + 1} {
 		checkNoLostOn(t, list, copies, day)
@@ -409,7 +409,7 @@ func checkNoCopies(t *testing.T, list []impl.Format, copies []impl.Copy) {
 		}
 	}
 	if sizes, ok := impl.SizeByFormat(list, copies); ok || len(sizes) != 0 {
-		t.Errorf("SizeByFormat(%.300v, %.300v) = %v, %v", list, copies, sizes, ok)
+		t.Errorf("SizeByFormat(%s, %s) = %v, %v", brief(list), brief(copies), sizes, ok)
 	}
 }
 
@@ -417,7 +417,7 @@ func checkNoCopies(t *testing.T, list []impl.Format, copies []impl.Copy) {
 func checkNoneOfFormats(t *testing.T, list []impl.Format) {
 	t.Helper()
 	if impl.AreFormats(list) {
-		t.Errorf("%.300v are Formats", list)
+		t.Errorf("%s are Formats", brief(list))
 	}
 	for _, id := range []int{0, 1, 4, 9, 50, 51} {
 		checkNoFormatId(t, list, id)
@@ -584,7 +584,7 @@ func TestPromise7NamesAreWords(t *testing.T) {
 		t.Helper()
 		for _, list := range [][]impl.Format{{format(1, name, 5)}, {format(1, "q", 5), format(2, name, 5, 1), format(3, "r", 5)}} {
 			if impl.AreFormats(list) != want {
-				t.Errorf("AreFormats(%.100v)", list)
+				t.Errorf("AreFormats(%s)", brief(list))
 			}
 		}
 	}
@@ -1249,7 +1249,7 @@ func TestPromise29FormatsAreNotModified(t *testing.T) {
 			kept, keptCopies := textOfFormats(list), slices.Clone(copies[:cap(copies)])
 			useFormats(list, copies, numbers)
 			if textOfFormats(list) != kept || !slices.Equal(copies[:cap(copies)], keptCopies) {
-				t.Fatalf("the lists changed to %.300v, %v", textOfFormats(list), copies[:cap(copies)])
+				t.Fatalf("the lists changed to %s, %v", brief(textOfFormats(list)), copies[:cap(copies)])
 			}
 		}
 	}
